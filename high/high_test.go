@@ -44,21 +44,6 @@ func everybody(p api.Policy) []string {
 	return l
 }
 
-// greatest is the state that the chapter tells: p's statements, and everybody in each role that may grow.
-func greatest(p api.Policy) []api.Stmt {
-	l := slices.Clone(p.Stmts)
-	for _, owner := range everybody(p) {
-		for _, name := range policy.Names(p) {
-			if r := role(owner, name); !slices.Contains(p.Grow, r) {
-				for _, who := range everybody(p) {
-					l = append(l, plain.Member(r, who))
-				}
-			}
-		}
-	}
-	return syn.Sort(l...)
-}
-
 func TestP12_1Fresh(t *testing.T) {
 	for text, want := range map[string]string{
 		"": "X1", "A.r <- B": "X1", "A.r <- X1": "X2", "X1.r <- B": "X2", "A.r <- X1.s": "X2", "A.r <- X1.s.t": "X2", "A.r <- B.s & X1.s": "X2",
@@ -129,8 +114,8 @@ func TestP12_1Maximal(t *testing.T) {
 	d := plain.Dice(1201)
 	for range 300 {
 		p := drawn(&d)
-		if got := high.Maximal(p); !slices.Equal(got, greatest(p)) {
-			t.Fatalf("%v: %v, not %v", p, got, greatest(p))
+		if got := high.Maximal(p); !slices.Equal(got, plain.Greatest(p, high.Fresh(p))) {
+			t.Fatalf("%v: %v, not %v", p, got, plain.Greatest(p, high.Fresh(p)))
 		}
 	}
 }
@@ -169,7 +154,7 @@ func holds(t *testing.T, p api.Policy) {
 	if l == nil || m == nil || !slices.Equal(l.Prins().All(), everybody(p)) || !slices.Equal(l.Links().All(), policy.Names(p)) {
 		t.Fatalf("%v: the table isn't that for it", p)
 	}
-	want := plain.Least(greatest(p))
+	want := plain.Least(plain.Greatest(p, high.Fresh(p)))
 	for i := range l.Roles() {
 		r := l.RoleAt(i)
 		for who := range l.Prins().Len() {
@@ -184,7 +169,7 @@ func holds(t *testing.T, p api.Policy) {
 	if m.In(l.Roles(), 0) || m.In(0, l.Prins().Len()) || m.In(-1, 0) {
 		t.Errorf("%v: the model has more than the table", p)
 	}
-	rules := table.For(p, high.Fresh(p)).Rules(greatest(p)...)
+	rules := table.For(p, high.Fresh(p)).Rules(plain.Greatest(p, high.Fresh(p))...)
 	steps := sem.Eval(l.Prins().Len(), l.Links().Len(), rules...).Steps()
 	if m.Steps() != steps || high.Steps(p) != steps {
 		t.Errorf("%v: %d steps, and %d, not %d", p, m.Steps(), high.Steps(p), steps)
@@ -252,7 +237,7 @@ func TestP12_1Full(t *testing.T) {
 		t.Fatal(policy.Right(p), len(p.Stmts), len(policy.Prins(p)), len(policy.Names(p)))
 	}
 	roles, l := high.Roles(p), high.Maximal(p)
-	if len(roles) != 17*12-36 || !slices.Equal(l, greatest(p)) || !state.Reaches(p, l) {
+	if len(roles) != 17*12-36 || !slices.Equal(l, plain.Greatest(p, high.Fresh(p))) || !state.Reaches(p, l) {
 		t.Error(len(roles), len(l))
 	}
 	if _, m := high.Eval(p); m.Steps() > sem.Bound(17, 12, len(l)) || m.Steps() < int64(len(l)) {

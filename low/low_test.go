@@ -31,17 +31,6 @@ func role(owner, name string) api.Role { return plain.Role(owner, name) }
 // drawn is a policy about A, B, C and r, s.
 func drawn(d *plain.Dice) api.Policy { return d.Policy([]string{"A", "B", "C"}, []string{"r", "s"}) }
 
-// kept are those of p's statements that may not go, by the chapter's words.
-func kept(p api.Policy) []api.Stmt {
-	var l []api.Stmt
-	for _, s := range p.Stmts {
-		if slices.Contains(p.Shrink, s.Head) {
-			l = append(l, s)
-		}
-	}
-	return l
-}
-
 // told are policies, what of them stays, and who is in A.r then.
 var told = []struct {
 	text, stays string
@@ -91,7 +80,7 @@ func TestP11_1Minimal(t *testing.T) {
 				p.Shrink = append(p.Shrink, r)
 			}
 		}
-		if got, want := low.Minimal(p), kept(p); !slices.Equal(got, want) {
+		if got, want := low.Minimal(p), plain.Kept(p); !slices.Equal(got, want) {
 			t.Errorf("of %v stay %v, not %v", p.Shrink, got, want)
 		}
 	}
@@ -104,7 +93,7 @@ func holds(t *testing.T, p api.Policy) {
 	if l == nil || m == nil || !slices.Equal(l.Prins().All(), policy.Prins(p)) || !slices.Equal(l.Links().All(), policy.Names(p)) {
 		t.Fatalf("%v: the table isn't that for it", p)
 	}
-	want := plain.Least(kept(p))
+	want := plain.Least(plain.Kept(p))
 	for i := range l.Roles() {
 		r := l.RoleAt(i)
 		for who := range l.Prins().Len() {
@@ -119,7 +108,7 @@ func holds(t *testing.T, p api.Policy) {
 	if m.In(l.Roles(), 0) || m.In(0, l.Prins().Len()) || m.In(-1, 0) {
 		t.Errorf("%v: the model has more than the table", p)
 	}
-	rules := l.Rules(kept(p)...)
+	rules := l.Rules(plain.Kept(p)...)
 	steps := sem.Eval(l.Prins().Len(), l.Links().Len(), rules...).Steps()
 	if m.Steps() != steps || low.Steps(p) != steps {
 		t.Errorf("%v: %d steps, and %d, not %d", p, m.Steps(), low.Steps(p), steps)
